@@ -35,8 +35,12 @@ const (
 	InRow  = 2 // nowhere: the fragments stand side by side
 )
 
-// SpineHead is how many words of a spine are ahead of its references.
-const SpineHead = 2
+// Words of spines.
+const (
+	SentinelWord = 0 // the reference to the sentinel
+	CountWord    = 1 // how many references are behind these
+	SpineHead    = 2 // how many words are ahead of them
+)
 
 // Head answers the shape and the mode of which w, the word 1 of a first
 // fragment, tells, and whether there is such a shape. Whether that one may be of
