@@ -272,3 +272,58 @@ func TestMemoriesStandApart(t *testing.T) {
 	holds(t, "the second", second, noughts(4))
 	holds(t, "the third", third, noughts(4))
 }
+
+// TestFrom: what is written as part of it counts nothing, and is read as any
+// other word is.
+func TestFrom(t *testing.T) {
+	for _, n := range []int{0, 1, 2, 9, 1000, bound - 1, bound} {
+		words := noughts(n)
+		for a := range words {
+			words[a] = complex(float64(a), -1)
+		}
+		m, e := From(words)
+		if m == nil || e != api.OK {
+			t.Fatalf("P6.1: From of %d words: a memory: %t, %d", n, m != nil, e)
+		}
+		counts(t, "words from the first", m, 0)
+		holds(t, "words from the first", m, words)
+	}
+	all := everyWord()
+	m, _ := From(all)
+	for a, want := range all {
+		w, e := m.Read(a)
+		if e != api.OK || !samePart(real(w), real(want)) || !samePart(imag(w), imag(want)) {
+			t.Errorf("P6.2: Read(%d) of From with %v: %v, %d", a, want, w, e)
+		}
+	}
+	counts(t, "each word read", m, len(all))
+	if m, e := From(nil); m == nil || e != api.OK || m.Len() != 0 {
+		t.Errorf("P6.1: From of nothing: a memory: %t, %d", m != nil, e)
+	}
+	for _, n := range []int{bound + 1, bound + 2, 2 * bound} {
+		if m, e := From(noughts(n)); m != nil || e != api.ErrRange {
+			t.Errorf("P6.1: From of %d words: a memory: %t, %d", n, m != nil, e)
+		}
+	}
+}
+
+// TestFromKeepsNothing: neither the list nor what lies behind its length is the
+// memory's.
+func TestFromKeepsNothing(t *testing.T) {
+	words := []complex128{1, 2, 3, 4}
+	m, _ := From(words[1:3])
+	twin, _ := From(words[1:3])
+	words[1] = 9
+	holds(t, "behind a change of the list", m, []complex128{2, 3})
+	m.Write(1, 7)
+	if e := m.Write(2, 7); e != api.ErrRange {
+		t.Errorf("P6.1: Write behind the last word: %d", e)
+	}
+	for a, want := range []complex128{1, 9, 3, 4} {
+		if words[a] != want {
+			t.Errorf("P6.1: Write changes the list that was handed in at %d: %v", a, words[a])
+		}
+	}
+	holds(t, "one more of the same list", twin, []complex128{2, 3})
+	counts(t, "one more of the same list", twin, 0)
+}
